@@ -166,13 +166,12 @@ func stringsShare(a, b string) bool {
 	return x < y+uintptr(len(b)) && y < x+uintptr(len(a))
 }
 
-func listsShare(a, b []string) bool {
+func listsShare[A, B any](a []A, b []B) bool {
 	if cap(a) == 0 || cap(b) == 0 {
 		return false
 	}
-	size := unsafe.Sizeof("")
 	x, y := uintptr(unsafe.Pointer(unsafe.SliceData(a))), uintptr(unsafe.Pointer(unsafe.SliceData(b)))
-	return x < y+uintptr(cap(b))*size && y < x+uintptr(cap(a))*size
+	return x < y+uintptr(cap(b))*unsafe.Sizeof(b[:1][0]) && y < x+uintptr(cap(a))*unsafe.Sizeof(a[:1][0])
 }
 
 func TestAnswersShareNoMemory(t *testing.T) {
