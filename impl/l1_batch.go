@@ -42,11 +42,12 @@ func within(n int, most int) bool {
 }
 
 func goodRecords(records []string) bool {
-	if len(records) < 1 || len(records) > MaxRecords {
-		return false
-	}
-	for _, r := range records {
-		if len(r) > MaxText {
+	return len(records) >= 1 && len(records) <= MaxRecords && allShort(records)
+}
+
+func allShort(texts []string) bool {
+	for _, s := range texts {
+		if len(s) > MaxText {
 			return false
 		}
 	}
