@@ -110,7 +110,7 @@ func TestAnyTextsOfWindowsAreAnswered(t *testing.T) {
 func shiftedWindow(r *rand.Rand, first impl.Window) impl.Window {
 	w := copyOfWindow(first)
 	some := max(1, w.Sent)
-	switch r.IntN(12) {
+	switch r.IntN(13) {
 	case 0:
 		w.Way = append(w.Way, r.IntN(some+1))
 	case 1:
@@ -128,6 +128,12 @@ func shiftedWindow(r *rand.Rand, first impl.Window) impl.Window {
 		w.Texts = append(w.Texts, "one more")
 	case 7:
 		w.Texts, w.Told = append(w.Texts, "one more"), append(w.Told, false)
+	case 8:
+		stored := len(plainTextsIn(w.Part))
+		many := r.IntN(w.Sent-stored+1) + 1
+		if stored+many <= len(w.Texts) {
+			w.Part, _, _, _ = plainAsked(w.Part, impl.Ask{Id: 7, Seq: stored, Records: w.Texts[stored : stored+many]})
+		}
 	default:
 		if len(w.Texts) == 0 {
 			return w
@@ -220,9 +226,6 @@ func tightWindows() map[string]impl.Window {
 		alike.Part.Log[1+i].Records = same[:1]
 	}
 	all["one text for all"] = alike
-	whole := impl.Window{Texts: same, Sent: 8, Told: append(slices.Repeat([]bool{true}, 8), make([]bool, 4)...), Way: []int{7}, Part: partOf(impl.Ask{Id: 7, Records: same[:8]})}
-	whole.Part.Log[0].Records = same[:8]
-	all["one batch, its records the texts"] = whole
 	empty := underWay()
 	empty.Way, empty.Back = empty.Way[:0], empty.Back[:0]
 	all["empty lists with memory behind them"] = empty

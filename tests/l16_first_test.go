@@ -73,7 +73,11 @@ func wantNothingLost(t *testing.T, before, after impl.Window, x impl.WinStep) {
 		return
 	}
 	ways := []int{len(after.Way) - len(before.Way), len(after.Back) - len(before.Back)}
-	wanted := [][]int{nil, {1, 0}, {1, 0}, {-1, 1}, {-1, 0}, {1, 0}, {0, -1}, {0, -1}}[x.Kind]
+	replies := 1
+	if len(before.Back) == 20 {
+		replies = 0
+	}
+	wanted := [][]int{nil, {1, 0}, {1, 0}, {-1, replies}, {-1, 0}, {1, 0}, {0, -1}, {0, -1}}[x.Kind]
 	if !slices.Equal(ways, wanted) {
 		t.Error("more or less is on the ways", before, x, after)
 	}
@@ -211,7 +215,7 @@ func TestLongRunsStoreTheFirstTexts(t *testing.T) {
 				continue
 			}
 			wantNothingLost(t, now, next, x)
-			if x.Kind == impl.WiTake {
+			if x.Kind == impl.WiTake && len(next.Back) > len(now.Back) {
 				codes[next.Back[len(next.Back)-1].Code]++
 			}
 			now = next
@@ -265,6 +269,26 @@ func TestWhatIsLostIsSentAgain(t *testing.T) {
 	wantPlayedTo(t, "and again", 1, []bool{true}, 1, wiSend(), wiLose(0), wiAgain(0), wiTake(0), wiAnswer(0))
 	wantPlayedTo(t, "on the way Back", 1, []bool{false}, 1, wiSend(), wiTake(0), wiDrop(0))
 	wantPlayedTo(t, "and again", 1, []bool{true}, 1, wiSend(), wiTake(0), wiDrop(0), wiAgain(0), wiTake(0), wiAnswer(0))
+}
+
+// What is taken while the way Back is full is stored once all the same, and is told when
+// it is asked for again.
+func TestWhatHasNoReplyIsStoredOnce(t *testing.T) {
+	l := []impl.WinStep{wiSend()}
+	for range 20 {
+		l = append(l, wiTwice(0), wiTake(0))
+	}
+	l = append(l, wiSend(), wiTwice(1), wiTake(1))
+	w := wantPlayedTo(t, "no reply", 2, []bool{false, false}, 2, l...)
+	if !slices.Equal(w.Way, []int{0, 1}) || len(w.Back) != 20 || slices.Contains(w.Back, impl.Reply{Seq: 1}) {
+		t.Error(w)
+	}
+	l = append(l, wiAnswer(0), wiTake(1))
+	w = wantPlayedTo(t, "once more, with room", 2, []bool{true, false}, 2, l...)
+	if w.Back[19] != (impl.Reply{Seq: 1, Code: impl.AskAgain}) {
+		t.Error(w)
+	}
+	wantPlayedTo(t, "it is told", 2, []bool{true, true}, 2, append(l, wiAnswer(19))...)
 }
 
 // What comes ahead of its turn is not stored, and its reply tells that nothing is.

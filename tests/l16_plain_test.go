@@ -8,7 +8,7 @@ import (
 )
 
 // What chapter 16 says, written once more in the plainest way: text by text, each limit
-// as a number, and room looked for by each step that needs it.
+// as a number, and room looked for by each step that puts something on a way.
 
 // plainWindow has any texts at its beginning, however many.
 func plainWindow(texts ...string) impl.Window {
@@ -51,8 +51,8 @@ func plainStoreGood(w impl.Window) bool {
 	if !plainPartGood(w.Part) {
 		return false
 	}
-	for _, b := range batchesOf(w.Part.Log, 7) {
-		if b.Epoch != 0 {
+	for k, b := range batchesOf(w.Part.Log, 7) {
+		if b.Epoch != 0 || b.Seq != k || len(b.Records) != 1 {
 			return false
 		}
 	}
@@ -126,7 +126,7 @@ func plainWiAgain(w *impl.Window, k int) bool {
 }
 
 func plainWiTake(w *impl.Window, k int) bool {
-	if k < 0 || k >= len(w.Way) || len(w.Back) == 20 {
+	if k < 0 || k >= len(w.Way) {
 		return false
 	}
 	seq := w.Way[k]
@@ -136,7 +136,9 @@ func plainWiTake(w *impl.Window, k int) bool {
 		panic("no ask")
 	}
 	w.Part = part
-	w.Back = append(w.Back, impl.Reply{Seq: seq, Code: code})
+	if len(w.Back) < 20 {
+		w.Back = append(w.Back, impl.Reply{Seq: seq, Code: code})
+	}
 	return true
 }
 
@@ -398,8 +400,8 @@ func randomWindow(r *rand.Rand) impl.Window {
 	return w
 }
 
-// storing is a part to which others come before, in between and behind the first texts,
-// some of which stand in one batch. Now and then there is too little room.
+// storing is a part to which others come before, in between and behind the first texts.
+// Now and then there is too little room.
 func storing(r *rand.Rand, texts []string, stored int) impl.Part {
 	p := impl.Part{}
 	switch r.IntN(6) {
@@ -414,17 +416,13 @@ func storing(r *rand.Rand, texts []string, stored int) impl.Part {
 		}
 	}
 	other()
-	for seq := 0; seq < stored; other() {
-		many := 1
-		if r.IntN(4) == 0 {
-			many = min(8, 1+r.IntN(stored-seq))
-		}
-		next, code, _, ok := plainAsked(p, impl.Ask{Id: 7, Seq: seq, Records: texts[seq : seq+many]})
+	for seq := range stored {
+		next, code, _, ok := plainAsked(p, impl.Ask{Id: 7, Seq: seq, Records: texts[seq : seq+1]})
 		if !ok || code != 0 {
 			break
 		}
 		p = next
-		seq += many
+		other()
 	}
 	return p
 }

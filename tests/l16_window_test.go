@@ -204,21 +204,20 @@ func someWindows() map[string]impl.Window {
 	l := texts(12, 20)
 	five := slices.Repeat([]impl.WinStep{wiSend()}, 5)
 	all := map[string]impl.Window{
-		"nothing at all":     {},
-		"empty lists":        {Texts: []string{}, Told: []bool{}, Way: []int{}, Back: []impl.Reply{}},
-		"no text":            plainWindow(),
-		"one text":           plainWindow("a"),
-		"a text of no byte":  plainWindow(""),
-		"twelve texts":       plainWindow(l...),
-		"five sent":          windowAfter(plainWindow(l...), five...),
-		"one taken":          windowAfter(plainWindow("a"), wiSend(), wiTake(0)),
-		"one Told":           windowAfter(plainWindow("a", "b"), wiSend(), wiTake(0), wiAnswer(0)),
-		"one again":          windowAfter(plainWindow("a", "b"), wiSend(), wiTake(0), wiAgain(0)),
-		"under way":          underWay(),
-		"all Told":           {Texts: l, Sent: 12, Told: slices.Repeat([]bool{true}, 12), Part: storedAlone(l, 12)},
-		"all Told, on ways":  {Texts: l, Sent: 12, Told: slices.Repeat([]bool{true}, 12), Way: steps(12, 0, 1), Back: []impl.Reply{{Seq: 11, Code: 5}}, Part: storedAlone(l, 12)},
-		"no batch at all":    {Texts: l, Told: make([]bool, 12)},
-		"one batch for five": {Texts: l, Sent: 6, Told: append([]bool{true}, make([]bool, 11)...), Way: []int{5}, Part: partOf(impl.Ask{Id: 7, Records: l[:5]})},
+		"nothing at all":    {},
+		"empty lists":       {Texts: []string{}, Told: []bool{}, Way: []int{}, Back: []impl.Reply{}},
+		"no text":           plainWindow(),
+		"one text":          plainWindow("a"),
+		"a text of no byte": plainWindow(""),
+		"twelve texts":      plainWindow(l...),
+		"five sent":         windowAfter(plainWindow(l...), five...),
+		"one taken":         windowAfter(plainWindow("a"), wiSend(), wiTake(0)),
+		"one Told":          windowAfter(plainWindow("a", "b"), wiSend(), wiTake(0), wiAnswer(0)),
+		"one again":         windowAfter(plainWindow("a", "b"), wiSend(), wiTake(0), wiAgain(0)),
+		"under way":         underWay(),
+		"all Told":          {Texts: l, Sent: 12, Told: slices.Repeat([]bool{true}, 12), Part: storedAlone(l, 12)},
+		"all Told, on ways": {Texts: l, Sent: 12, Told: slices.Repeat([]bool{true}, 12), Way: steps(12, 0, 1), Back: []impl.Reply{{Seq: 11, Code: 5}}, Part: storedAlone(l, 12)},
+		"no batch at all":   {Texts: l, Told: make([]bool, 12)},
 	}
 	for why, change := range goodWindowChanges() {
 		all[why] = changedWindow(change)
@@ -246,7 +245,7 @@ func goodWindowChanges() map[string]func(w *impl.Window) {
 		"twenty on both":              func(w *impl.Window) { w.Way, w.Back = make([]int, 20), make([]impl.Reply, 20) },
 		"without other producers":     func(w *impl.Window) { w.Part = storedAlone(w.Texts, 4) },
 		"without the first batch":     func(w *impl.Window) { w.Part = partOf(inWindow(w.Texts, 4)...) },
-		"all stored in one batch":     func(w *impl.Window) { w.Part = partOf(impl.Ask{Id: 7, Records: w.Texts[:4]}) },
+		"others have more in a batch": func(w *impl.Window) { w.Part = partWith(w.Texts, withOthersOfEight(4)...) },
 		"four other producers":        func(w *impl.Window) { *w = withoutRoom(*w) },
 		"sixty batches":               func(w *impl.Window) { w.Part = withSixty(w.Texts, 4, 0) },
 		"fifty-nine batches":          func(w *impl.Window) { w.Part = withSixty(w.Texts, 4, 1) },
@@ -269,6 +268,16 @@ func inWindow(texts []string, many int) []impl.Ask {
 	var l []impl.Ask
 	for k := range many {
 		l = append(l, impl.Ask{Id: 7, Seq: k, Records: texts[k : k+1]})
+	}
+	return l
+}
+
+// withOthersOfEight are so many asks of the producer, among those of others for many
+// records each.
+func withOthersOfEight(many int) []impl.Ask {
+	var l []impl.Ask
+	for k := range many {
+		l = append(l, ask(6, 0, 8*k, 8), impl.Ask{Id: 7}, ask(8, 0, 2*k, 2))
 	}
 	return l
 }
@@ -374,6 +383,11 @@ func badWindowChanges() map[string]func(w *impl.Window) {
 		"texts turned round":             func(w *impl.Window) { slices.Reverse(w.Texts[:4]) },
 		"two texts in one":               func(w *impl.Window) { w.Part = storedAlone([]string{"ab", "b", "", "e"}, 3) },
 		"stored from the second on":      func(w *impl.Window) { w.Part = storedAlone(w.Texts[1:], 3) },
+		"all stored in one batch":        func(w *impl.Window) { w.Part = partOf(impl.Ask{Id: 7, Records: w.Texts[:4]}) },
+		"the first two in one batch":     func(w *impl.Window) { w.Part = partOf(inBatches(w.Texts, 2, 1, 1)...) },
+		"the last two in one batch":      func(w *impl.Window) { w.Part = partOf(inBatches(w.Texts, 1, 1, 2)...) },
+		"the two between in one batch":   func(w *impl.Window) { w.Part = partOf(inBatches(w.Texts, 1, 2, 1)...) },
+		"one batch, nothing Told":        func(w *impl.Window) { w.Told, w.Sent, w.Part = make([]bool, 8), 5, partOf(inBatches(w.Texts, 2)...) },
 		"one batch of another text":      func(w *impl.Window) { w.Part = partOf(impl.Ask{Id: 7, Records: []string{"a", "b", "b", "x"}}) },
 		"one batch of too much":          func(w *impl.Window) { w.Part = partOf(impl.Ask{Id: 7, Records: w.Texts[:7]}) },
 		"stored with Epoch 1":            func(w *impl.Window) { *w = withEpochOf(*w, inEpoch(w.Texts, 1, 4)) },
@@ -384,6 +398,17 @@ func badWindowChanges() map[string]func(w *impl.Window) {
 		"twenty-one on the Way":          func(w *impl.Window) { w.Way = make([]int, 21) },
 		"twenty-one Back":                func(w *impl.Window) { w.Back = make([]impl.Reply, 21) },
 	}
+}
+
+// inBatches are the asks for the first texts, so many of them in each.
+func inBatches(texts []string, many ...int) []impl.Ask {
+	var l []impl.Ask
+	seq := 0
+	for _, n := range many {
+		l = append(l, impl.Ask{Id: 7, Seq: seq, Records: texts[seq : seq+n]})
+		seq += n
+	}
+	return l
 }
 
 // inEpoch are the asks for so many texts of another Epoch.
@@ -489,12 +514,14 @@ func TestWindowAgain(t *testing.T) {
 }
 
 // wantTakenFrom asks that what is taken from a place leaves it, and that such a reply
-// comes, the part being the same but for what is stored.
+// comes where there is room, the part being the same but for what is stored.
 func wantTakenFrom(t *testing.T, why string, w impl.Window, k int, r impl.Reply) {
 	t.Helper()
 	wantWindowChanged(t, why, w, wiTake(k), func(w *impl.Window) {
 		w.Way = slices.Delete(w.Way, k, k+1)
-		w.Back = append(w.Back, r)
+		if len(w.Back) < 20 {
+			w.Back = append(w.Back, r)
+		}
 		if r.Code == impl.AskOk {
 			w.Part, _, _, _ = plainAsked(w.Part, impl.Ask{Id: 7, Seq: r.Seq, Records: []string{w.Texts[r.Seq]}})
 		}
@@ -524,9 +551,28 @@ func TestWindowTake(t *testing.T) {
 		w.Back = make([]impl.Reply, many)
 		wantTakenFrom(t, "room for the reply", w, 0, impl.Reply{Seq: 4})
 	}
-	w.Back = make([]impl.Reply, 20)
-	for k := range 5 {
-		wantNoWindowStep(t, "no room for the reply", w, wiTake(k))
+}
+
+// The number leaves the Way and the part is asked, though the reply has no room.
+func TestTakeWithoutRoomBack(t *testing.T) {
+	full := changedWindow(func(w *impl.Window) { w.Back = slices.Repeat([]impl.Reply{{Seq: 5, Code: 5}, {Seq: 1}}, 10) })
+	for k, code := range []int{impl.AskOk, impl.AskAgain, impl.AskOk, impl.AskGap, impl.AskAgain} {
+		wantTakenFrom(t, "no room for the reply", full, k, impl.Reply{Seq: full.Way[k], Code: code})
+		got, ok := impl.StepWindow(full, wiTake(k))
+		if !ok || len(got.Way) != 4 || !slices.Equal(got.Back, full.Back) || !slices.Equal(got.Told, full.Told) {
+			t.Error("a reply comes, or another thing changes", k, got, ok)
+		}
+	}
+	stored := windowAfter(full, wiTake(0))
+	wantTakenFrom(t, "the next one too", stored, 2, impl.Reply{Seq: 5})
+	wantTakenFrom(t, "once more", stored, 1, impl.Reply{Seq: 4, Code: impl.AskAgain})
+	wantTakenFrom(t, "one reply was dropped", windowAfter(stored, wiDrop(19)), 1, impl.Reply{Seq: 4, Code: impl.AskAgain})
+	full.Part = withSixty(full.Texts, 4, 0)
+	wantTakenFrom(t, "no room in the part, either", full, 0, impl.Reply{Seq: 4, Code: impl.AskFull})
+	full.Way = make([]int, 20)
+	wantTakenFrom(t, "all is full", full, 19, impl.Reply{Seq: 0, Code: impl.AskAgain})
+	for _, k := range []int{math.MinInt, -1, 20, math.MaxInt} {
+		wantNoWindowStep(t, "a place that is not there", full, wiTake(k))
 	}
 }
 
@@ -544,11 +590,6 @@ func TestTakeWhatIsOld(t *testing.T) {
 			}
 			wantTakenFrom(t, fmt.Sprint(k, " of ", stored), w, k, impl.Reply{Seq: k, Code: code})
 		}
-	}
-	one := someWindows()["one batch for five"]
-	one.Way = []int{0, 1, 4, 5}
-	for k, code := range []int{impl.AskOld, impl.AskOld, impl.AskOld, impl.AskOk} {
-		wantTakenFrom(t, "five stood in one batch", one, k, impl.Reply{Seq: one.Way[k], Code: code})
 	}
 }
 
@@ -679,7 +720,7 @@ func TestWindowStoredIn(t *testing.T) {
 	l := windowTexts()
 	for why, want := range map[string][]string{
 		"nothing at all": nil, "no text": nil, "no batch at all": nil, "five sent": nil, "four other producers": nil, "nothing Told nor stored": nil,
-		"one taken": {"a"}, "under way": l[:4], "all stored in one batch": l[:4], "sixty batches": l[:4], "all Told": texts(12, 20), "one batch for five": texts(5, 20),
+		"one taken": {"a"}, "under way": l[:4], "others have more in a batch": l[:4], "sixty batches": l[:4], "all Told": texts(12, 20),
 		"stored are just those Told": l[:3],
 	} {
 		if got, ok := impl.StoredIn(someWindows()[why]); !ok || !slices.Equal(got, want) {
@@ -714,7 +755,7 @@ func TestFinishWindow(t *testing.T) {
 		"nothing at all": 0, "no text": 0, "all Told": 0, "all Told, on ways": 0,
 		"one text": 1, "twelve texts": 12, "five sent": 12, "no batch at all": 12, "one taken": 1, "one Told": 1,
 		"under way": 6, "as many sent as texts": 5, "nothing Told nor stored": 8, "all that is stored Told": 4, "twenty on both": 6,
-		"stored are just those Told": 5, "one batch for five": 11, "all stored in one batch": 6, "just batches enough": 6,
+		"stored are just those Told": 5, "others have more in a batch": 6, "just batches enough": 6,
 	} {
 		if _, there := all[why]; !there {
 			t.Fatal(why)
